@@ -94,7 +94,7 @@ func (r *reader) ended(n api.Node) api.Node {
 func (r *reader) decl() api.Node {
 	pub := int64(0)
 	if r.skip("pub") {
-		pub = isPub
+		pub = Pub
 	}
 	if r.skip("proc") {
 		return r.proc(pub)
@@ -115,9 +115,9 @@ func (r *reader) proc(pub int64) api.Node {
 	n.Kids = r.list(r.param)
 	n.Num = r.label() + pub
 	if r.skip("gives") {
-		n.Num += givesLow
+		n.Num += GivesLow
 		if r.label() == api.High {
-			n.Num += givesHigh - givesLow
+			n.Num += GivesHigh - GivesLow
 		}
 	}
 	n.Kids = append(n.Kids, r.block())
@@ -284,7 +284,7 @@ func (r *reader) longName() string {
 }
 
 func (r *reader) name() string {
-	if len(r.tokens) == 0 || !isName(r.tokens[0]) {
+	if len(r.tokens) == 0 || !isNameToken(r.tokens[0]) {
 		r.giveUp()
 	}
 	return r.next()

@@ -7,7 +7,6 @@ import (
 	"strings"
 
 	"dryshod/api"
-	"dryshod/lex"
 )
 
 // How strongly expressions hold together: what binds less stands in parentheses
@@ -58,8 +57,8 @@ type shape struct {
 var shapes = [...]shape{
 	api.NModule: {names: 1, many: api.MaxNodes},
 	api.NImport: {names: 1},
-	api.NVar:    {names: 1, most: api.High + isPub, many: 1},
-	api.NProc:   {names: 1, most: api.High + isPub + givesHigh, few: 1, many: api.MaxNodes},
+	api.NVar:    {names: 1, most: api.High + Pub, many: 1},
+	api.NProc:   {names: 1, most: api.High + Pub + GivesHigh, few: 1, many: api.MaxNodes},
 	api.NParam:  {names: 1, most: api.High},
 	api.NBlock:  {many: api.MaxNodes},
 	api.NLocal:  {names: 1, most: api.High, few: 1, many: 1},
@@ -132,20 +131,14 @@ func isText(text string, names int) bool {
 func wordsOf(text string) []string {
 	first, second, isLong := strings.Cut(text, ".")
 	switch {
-	case !isOneName(first):
+	case !IsName(first):
 		return nil
 	case !isLong:
 		return []string{first}
-	case !isOneName(second):
+	case !IsName(second):
 		return nil
 	}
 	return []string{first, ".", second}
-}
-
-// isOneName tells whether text is a NAME, with nothing around it.
-func isOneName(text string) bool {
-	tokens, _ := lex.Scan(text)
-	return len(tokens) == 1 && isName(tokens[0]) && tokens[0].Text == text
 }
 
 func (w *writer) put(words ...string) {
@@ -185,7 +178,7 @@ func (w *writer) module(n api.Node) {
 
 func (w *writer) decl(n api.Node) {
 	look(n, api.NVar, api.NProc)
-	if n.Num&isPub != 0 {
+	if n.Num&Pub != 0 {
 		w.put("pub")
 	}
 	if n.Kind == api.NProc {
@@ -207,10 +200,10 @@ func (w *writer) proc(n api.Node) {
 	w.put("proc", n.Text)
 	w.list(n.Kids[:last], w.param)
 	w.putLabel(n.Num & api.High)
-	switch n.Num & (givesLow | givesHigh) {
-	case givesLow:
+	switch n.Num & (GivesLow | GivesHigh) {
+	case GivesLow:
 		w.put("gives", "low")
-	case givesHigh:
+	case GivesHigh:
 		w.put("gives", "high")
 	}
 	w.block(n.Kids[last])
