@@ -81,14 +81,14 @@ func (d *declarations) addVar(n api.Node) {
 			d.refuse(api.ErrRange)
 		}
 	}
-	if v := varOf(n); v.Pub {
+	if v := VarOf(n); v.Pub {
 		d.Vars = append(d.Vars, v)
 	}
 }
 
 func (d *declarations) addProc(n api.Node) {
 	d.enter(d.declared, n.Text, api.MaxDecls)
-	p := procOf(n)
+	p := ProcOf(n)
 	if len(p.Params) > api.MaxParams {
 		d.refuse(api.ErrSize)
 	}
@@ -98,21 +98,21 @@ func (d *declarations) addProc(n api.Node) {
 	d.params = names{}
 }
 
-// varOf answers the variable of an NVar.
-func varOf(n api.Node) api.Var {
-	v := api.Var{Name: n.Text, Pub: isPub(n), Label: labelOf(n)}
+// VarOf answers the variable of an NVar.
+func VarOf(n api.Node) api.Var {
+	v := api.Var{Name: n.Text, Pub: isPub(n), Label: LabelOf(n)}
 	for _, size := range n.Kids {
 		v.Size = int(size.Num)
 	}
 	return v
 }
 
-// procOf answers the procedure of an NProc.
-func procOf(n api.Node) api.Proc {
-	p := api.Proc{Name: n.Text, Pub: isPub(n), Writes: labelOf(n)}
+// ProcOf answers the procedure of an NProc.
+func ProcOf(n api.Node) api.Proc {
+	p := api.Proc{Name: n.Text, Pub: isPub(n), Writes: LabelOf(n)}
 	for _, kid := range n.Kids {
 		if kid.Kind == api.NParam {
-			p.Params = append(p.Params, labelOf(kid))
+			p.Params = append(p.Params, LabelOf(kid))
 		}
 	}
 	switch n.Num & (syntax.GivesLow | syntax.GivesHigh) {
@@ -128,7 +128,7 @@ func isPub(n api.Node) bool {
 	return n.Num&syntax.Pub != 0
 }
 
-// labelOf answers the label that stands in the Num of n.
-func labelOf(n api.Node) int {
+// LabelOf answers the label that stands in the Num of n.
+func LabelOf(n api.Node) int {
 	return int(n.Num & api.High)
 }
