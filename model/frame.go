@@ -3,6 +3,7 @@ package model
 import (
 	"dryshod/api"
 	"dryshod/face"
+	"dryshod/show"
 )
 
 // local is a parameter, or what an NLocal has made.
@@ -35,7 +36,7 @@ func (f *frame) block(n api.Node) {
 }
 
 func (f *frame) stat(n api.Node) {
-	f.step()
+	f.Step()
 	first := n.Kids[0]
 	switch n.Kind {
 	case api.NLocal:
@@ -54,10 +55,10 @@ func (f *frame) stat(n api.Node) {
 			f.block(n.Kids[1])
 		}
 	case api.NOut:
-		f.show(face.LabelOf(n), f.expr(first))
+		f.Out(face.LabelOf(n), f.expr(first))
 	case api.NIn:
 		index := f.index(first)
-		value := f.take(face.LabelOf(n))
+		value := f.Take(face.LabelOf(n))
 		*f.word(first, index) = value
 	case api.NReturn:
 		panic(given(f.expr(first)))
@@ -74,18 +75,18 @@ func (f *frame) choose(isFirst bool, blocks []api.Node) {
 }
 
 func (f *frame) expr(n api.Node) int64 {
-	f.step()
+	f.Step()
 	switch n.Kind {
 	case api.NName, api.NItem:
 		return *f.word(n, f.index(n))
 	case api.NCall:
 		return f.callOf(n)
 	case api.NOp:
-		return reckon(int(n.Num), f.expr(n.Kids[0]), f.expr(n.Kids[1]))
+		return show.Reckon(int(n.Num), f.expr(n.Kids[0]), f.expr(n.Kids[1]))
 	case api.NNeg:
-		return reckon(api.OpSub, 0, f.expr(n.Kids[0]))
+		return show.Reckon(api.OpSub, 0, f.expr(n.Kids[0]))
 	case api.NNot:
-		return reckon(api.OpSame, 0, f.expr(n.Kids[0]))
+		return show.Reckon(api.OpSame, 0, f.expr(n.Kids[0]))
 	}
 	return n.Num
 }
@@ -116,7 +117,7 @@ func (f *frame) word(n api.Node, index int64) *int64 {
 	}
 	words := f.vars[longName(n.Text, f.module)]
 	if index < 0 || index >= int64(len(words)) {
-		panic(ended(api.EndIndex))
+		panic(show.Ended(api.EndIndex))
 	}
 	return &words[index]
 }
