@@ -1,4 +1,4 @@
-package model
+package whole
 
 import (
 	"math/rand"
@@ -336,20 +336,26 @@ func programs(t *testing.T, seed int64, count int, try func(m *maker, texts []st
 }
 
 // G1 to G3: many programs, held against the second telling.
-func TestTelling(t *testing.T) {
+func TestG2Programs(t *testing.T) {
 	ends := map[int]int{}
 	programs(t, 7, 500, func(m *maker, texts []string) {
 		second := lay(texts)
 		for range 5 {
 			low, high, fuel := m.input(), m.input(), m.fuel()
-			got, trouble := Run(texts, low, high, fuel)
+			got := meant(t, texts, low, high, fuel)
 			want := second.walk(low, high, fuel)
-			if trouble != (api.Trouble{}) || !isSame(got, want) {
-				t.Fatalf("Run(%q, %v, %v, %d) = %v, %v; want %v", texts, low, high, fuel, got, trouble, want)
+			if !isAlike(got, want) || got.Steps != want.Steps {
+				t.Fatalf("model.Run(%q, %v, %v, %d) = %v; want %v", texts, low, high, fuel, got, want)
 			}
 			ends[got.End]++
 		}
 	})
+	tryEnds(t, ends)
+}
+
+// tryEnds asks for runs that end in all ways that there are.
+func tryEnds(t *testing.T, ends map[int]int) {
+	t.Helper()
 	for _, end := range []int{api.EndFuel, api.EndDone, api.EndDivided, api.EndIndex, api.EndInput, api.EndDeep} {
 		if ends[end] < 50 {
 			t.Errorf("%d runs only end by %d", ends[end], end)

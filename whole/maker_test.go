@@ -1,4 +1,4 @@
-package model
+package whole
 
 import (
 	"math/rand"
@@ -230,7 +230,7 @@ func (m *maker) proc(name string) string {
 	things := m.things
 	m.first = len(m.things)
 	var params []string
-	for _, param := range []string{"x", "z", "w"}[:m.Intn(4)] {
+	for _, param := range []string{"x", "z", "w", "p", "q"}[:m.Intn(6)] {
 		label := m.label()
 		m.things = append(m.things, thing{param, label, 0})
 		p.params = append(p.params, label)
