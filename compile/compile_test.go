@@ -11,6 +11,7 @@ import (
 	"dryshod/api"
 	"dryshod/check"
 	"dryshod/face"
+	"dryshod/object"
 	"dryshod/syntax"
 )
 
@@ -31,8 +32,8 @@ func made(t *testing.T, text string, faces ...api.Face) api.Object {
 	if fault != (api.Fault{}) {
 		t.Fatalf("Make(%q, %v) tells %v", text, faces, fault)
 	}
-	if why := missing(o); why != "" {
-		t.Errorf("Make(%q, %v) has not the form of I1: %s: %v", text, faces, why, o)
+	if !object.May(o) {
+		t.Errorf("Make(%q, %v) has not the form of I1: %v", text, faces, o)
 	}
 	return o
 }

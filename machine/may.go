@@ -8,15 +8,15 @@ func May(m api.Image) bool {
 		return false
 	}
 	for _, o := range m.Code {
-		if !hasItsFields(o) || goesOn(o.Op) && !isBelow(o.N, len(m.Code)) {
+		if !IsOrder(o) || goesOn(o.Op) && !isBelow(o.N, len(m.Code)) {
 			return false
 		}
 	}
 	return true
 }
 
-// hasItsFields tells whether an order is one, wherever it goes on.
-func hasItsFields(o api.Instr) bool {
+// IsOrder tells whether o is one as the table says, but for where it goes on.
+func IsOrder(o api.Instr) bool {
 	named, isOne := fieldsOf(o.Op)
 	if o.Op == api.ICheck && (o.N < 1 || o.N > api.MaxArray) {
 		return false

@@ -1,6 +1,7 @@
 package whole
 
 import (
+	"bytes"
 	"slices"
 	"testing"
 
@@ -8,6 +9,7 @@ import (
 	"dryshod/compile"
 	"dryshod/face"
 	"dryshod/machine"
+	"dryshod/object"
 	"dryshod/syntax"
 )
 
@@ -31,13 +33,28 @@ func build(t *testing.T, texts []string) api.Image {
 			t.Fatalf("Make(%q, %v) tells %v", text, faces, fault)
 		}
 		tryBounds(t, text, o)
-		objects = append(objects, o)
+		objects = append(objects, throughBytes(t, o))
 	}
 	image := linked(t, objects)
 	if !machine.May(image) {
 		t.Fatalf("of %q no image is made that may be: %v", texts, image)
 	}
 	return image
+}
+
+// throughBytes answers what is read where an object is written.
+func throughBytes(t *testing.T, o api.Object) api.Object {
+	t.Helper()
+	b, code := object.Put(o)
+	if code != api.OK {
+		t.Fatalf("Put(%v) tells %v", o, code)
+	}
+	got, code := object.Get(b)
+	again, _ := object.Put(got)
+	if code != api.OK || !bytes.Equal(again, b) {
+		t.Fatalf("%v comes back as %v, %v", o, got, code)
+	}
+	return got
 }
 
 func countNodes(n api.Node) int {
