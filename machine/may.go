@@ -8,11 +8,16 @@ func May(m api.Image) bool {
 		return false
 	}
 	for _, o := range m.Code {
-		if !IsOrder(o) || goesOn(o.Op) && !isBelow(o.N, len(m.Code)) {
+		if !IsOrderAmong(o, len(m.Code)) {
 			return false
 		}
 	}
 	return true
+}
+
+// IsOrderAmong tells whether o is one as the table says, where there are so many orders.
+func IsOrderAmong(o api.Instr, orders int) bool {
+	return IsOrder(o) && (!goesOn(o.Op) || isBelow(o.N, orders))
 }
 
 // IsOrder tells whether o is one as the table says, but for where it goes on.

@@ -125,13 +125,13 @@ func (p *program) imported(m module) []api.Face {
 
 func (p *program) findMain() {
 	number, found := p.numbers["main"]
-	if !found || !slices.ContainsFunc(p.modules[number].face.Procs, isMain) {
+	if !found || !slices.ContainsFunc(p.modules[number].face.Procs, IsMain) {
 		refuse(0, api.ErrName, 0)
 	}
 }
 
-// isMain tells whether a program can begin with a procedure of a module's
+// IsMain tells whether a program can begin with a procedure of a module's
 // face, where all are pub.
-func isMain(proc api.Proc) bool {
+func IsMain(proc api.Proc) bool {
 	return proc.Name == "main" && len(proc.Params) == 0 && proc.Writes == api.Low && !proc.Gives
 }

@@ -2,12 +2,12 @@ package whole
 
 import (
 	"bytes"
-	"slices"
 	"testing"
 
 	"dryshod/api"
 	"dryshod/compile"
 	"dryshod/face"
+	"dryshod/link"
 	"dryshod/machine"
 	"dryshod/object"
 	"dryshod/syntax"
@@ -76,50 +76,52 @@ func tryBounds(t *testing.T, text string, o api.Object) {
 	}
 }
 
-// bases are where what an object has begins in an image.
-type bases struct{ code, low, high int }
-
-// linked answers the image of objects in the words of K2, as long as there is
-// no linker; nothing is asked that K1 asks.
+// linked answers the image of objects with which there is no trouble.
 func linked(t *testing.T, objects []api.Object) api.Image {
 	t.Helper()
-	at := map[string]bases{}
-	known := map[string]api.Object{}
-	end := bases{code: 4}
-	lowFrame, highFrame := 0, 0
-	for _, o := range objects {
-		at[o.Face.Module], known[o.Face.Module] = end, o
-		end = bases{end.code + len(o.Code), end.low + o.Low, end.high + o.High}
-		lowFrame, highFrame = max(lowFrame, o.LowFrame), max(highFrame, o.HighFrame)
-	}
-	// where answers what a reloc of an object adds.
-	where := func(own string, r api.Reloc) int {
-		if r.Kind == api.RelocCode {
-			return at[own].code
-		}
-		o, base := known[r.Module], at[r.Module]
-		places, begin := o.Procs, base.code
-		switch r.Kind {
-		case api.RelocLow:
-			places, begin = o.Lows, base.low
-		case api.RelocHigh:
-			places, begin = o.Highs, base.high
-		}
-		i := slices.IndexFunc(places, func(p api.Place) bool { return p.Name == r.Name })
-		if i < 0 {
-			t.Fatalf("%s asks for %v, which is not there", own, r)
-		}
-		return begin + places[i].At
-	}
-	main := where("main", api.Reloc{Kind: api.RelocProc, Module: "main", Name: "main"})
-	image := api.Image{Low: end.low + (api.MaxCalls+1)*lowFrame, High: end.high + (api.MaxCalls+1)*highFrame}
-	image.Code = []api.Instr{{Op: api.ISet, A: 6, N: int64(end.low)}, {Op: api.ISet, A: 7, N: int64(end.high)}, {Op: api.ICall, N: int64(main)}, {Op: api.IHalt}}
-	for _, o := range objects {
-		code := slices.Clone(o.Code)
-		for _, r := range o.Relocs {
-			code[r.At].N += int64(where(o.Face.Module, r))
-		}
-		image.Code = append(image.Code, code...)
+	image, trouble := link.Link(objects)
+	if trouble != (api.Trouble{}) {
+		t.Fatalf("Link(%v) tells %v", objects, trouble)
 	}
 	return image
+}
+
+// K1: a module that is made anew is linked with those that knew it before, as
+// long as its face is the same.
+func TestK1Anew(t *testing.T) {
+	before := "module a;pub low x;low y;pub proc p(low n)low{x=n;}"
+	known, _, _ := face.Of(before)
+	main, fault := compile.Make("module main;import a;pub proc main()low{do a.p(7);out low a.x;}", []api.Face{known})
+	if fault != (api.Fault{}) {
+		t.Fatal(fault)
+	}
+	for text, want := range map[string]api.Errno{
+		before: api.OK,
+		"module a;high zs[9];pub low x;pub proc p(low m)low{x=z();x=x+m;}proc q()low{}proc z()low gives low{return 0;}": api.OK,
+		"module a;pub proc p(low n)low{low k=n;while(k){x=x+1;k=k-1;}}low y;pub low x;low z[4];":                        api.OK,
+		"module a;pub low x;low y;pub proc p(low n)low{x=n;}pub low z;":                                                 api.ErrKind,
+		"module a;pub low x;pub low y;pub proc p(low n)low{x=n;}":                                                       api.ErrKind,
+		"module a;pub high x;low y;pub proc p(low n)low{x=n;}":                                                          api.ErrKind,
+		"module a;pub low x;low y;pub proc p(high n)low{}":                                                              api.ErrKind,
+		"module a;pub low x;low y;pub proc p(low n)low gives low{x=n;return 0;}":                                        api.ErrKind,
+		"module a;low x;low y;pub proc p(low n)low{x=n;}":                                                               api.ErrKind,
+		"module aa;pub low x;low y;pub proc p(low n)low{x=n;}":                                                          api.ErrName,
+	} {
+		a, fault := compile.Make(text, nil)
+		if fault != (api.Fault{}) {
+			t.Fatalf("%s has %v", text, fault)
+		}
+		for number, objects := range [][]api.Object{{main, a}, {a, main}} {
+			image, trouble := link.Link(objects)
+			if want != api.OK {
+				if trouble != (api.Trouble{Module: number, Code: want}) {
+					t.Errorf("with %s Link tells %v", text, trouble)
+				}
+				continue
+			}
+			if shown, _ := done(t, image, nil, nil, api.MaxFuel); !isAlike(shown, api.Shown{End: api.EndDone, Low: l(7)}) {
+				t.Errorf("with %s is shown %v", text, shown)
+			}
+		}
+	}
 }
