@@ -2,9 +2,11 @@ package whole
 
 import (
 	"bytes"
+	"reflect"
 	"testing"
 
 	"dryshod/api"
+	"dryshod/build"
 	"dryshod/compile"
 	"dryshod/face"
 	"dryshod/link"
@@ -13,8 +15,26 @@ import (
 	"dryshod/syntax"
 )
 
-// build answers the image of a program without trouble.
-func build(t *testing.T, texts []string) api.Image {
+// built answers the image of a program without trouble. L1: it is that of the
+// objects that are made of the texts apart.
+func built(t *testing.T, texts []string) api.Image {
+	t.Helper()
+	image, trouble := build.Build(texts)
+	if trouble != (api.Trouble{}) {
+		t.Fatalf("Build(%q) tells %v", texts, trouble)
+	}
+	if want := linked(t, madeApart(t, texts)); !reflect.DeepEqual(image, want) {
+		t.Fatalf("Build(%q) = %v; want %v", texts, image, want)
+	}
+	if !machine.May(image) {
+		t.Fatalf("of %q no image is made that may be: %v", texts, image)
+	}
+	return image
+}
+
+// madeApart answers the objects of a program without trouble, each of which was
+// written as bytes and read again.
+func madeApart(t *testing.T, texts []string) []api.Object {
 	t.Helper()
 	known := map[string]api.Face{}
 	for _, text := range texts {
@@ -35,11 +55,7 @@ func build(t *testing.T, texts []string) api.Image {
 		tryBounds(t, text, o)
 		objects = append(objects, throughBytes(t, o))
 	}
-	image := linked(t, objects)
-	if !machine.May(image) {
-		t.Fatalf("of %q no image is made that may be: %v", texts, image)
-	}
-	return image
+	return objects
 }
 
 // throughBytes answers what is read where an object is written.

@@ -49,7 +49,7 @@ func TestG4(t *testing.T) {
 		"in high h;if(h){do hide(l+5,h);}out low 2;", "in high h;low x=5;if(h){h=even(x-4)+odd(x)*(x-even(2));}low y=x;out low y;",
 		"in high h;high y=(l+1)*(h+1);h=y-(l-(h-y));if(h){high z=(l+7)-(l*(l-3));h=z;}out low l;", "in high h;while(0<h){h=h-1;h=h&3;do hide(7,h);}out low l+(3-(4-l));",
 	} {
-		image := build(t, inMain(stats))
+		image := built(t, inMain(stats))
 		for _, one := range [][]int64{nil, l(0), l(1, 0, 5), l(2, 1, 1), l(-1, 7), l(1<<63-1, -1<<63, 3)} {
 			for _, two := range [][]int64{l(0, 0, 0), l(1), l(1, 1, 1), l(50, 2)} {
 				for _, fuel := range []int{0, 3, 6, 10, 40, api.MaxSteps} {
@@ -65,7 +65,7 @@ func TestG4(t *testing.T) {
 func TestG4Programs(t *testing.T) {
 	shown, areDone, other := 0, 0, 0
 	programs(t, 4, 500, func(m *maker, texts []string) {
-		image := build(t, texts)
+		image := built(t, texts)
 		for range 6 {
 			low, highs, fuels := m.input(), [2][]int64{m.input(), m.input()}, [2]int{m.fuel(), m.fuel()}
 			one, two := tryDry(t, texts, low, highs, fuels)
@@ -92,6 +92,9 @@ func TestG4Programs(t *testing.T) {
 // of this one, which does as G2 says. README.md tells of it.
 func TestG4Open(t *testing.T) {
 	texts := []string{"module main;high x;proc f()low gives high{out low 1;x=x-1;return x;}pub proc main()low{in high x;while(f()){}}"}
+	if !isOpen(texts) || isOpen(inMain("l=3;while(say(l)){l=l-1;}while(h){h=h-1;}if(h+say(1)){}while(even(2)){}")) {
+		t.Errorf("which loops are open is not told")
+	}
 	for _, high := range []int64{1, 3} {
 		want := api.Shown{End: api.EndDone, Low: slices.Repeat(l(1), int(high)), UsedHigh: 1, Steps: 2 + 9*int(high)}
 		if got := tryFuels(t, texts, nil, l(high)); !isAlike(got, want) || got.Steps != want.Steps {

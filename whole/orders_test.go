@@ -1,11 +1,13 @@
 package whole
 
 import (
+	"slices"
 	"strconv"
 	"strings"
 	"testing"
 
 	"dryshod/api"
+	"dryshod/build"
 	"dryshod/compile"
 )
 
@@ -28,7 +30,7 @@ func tryOrders(t *testing.T, texts []string, image api.Image, low, high []int64,
 // they take.
 func tryFuels(t *testing.T, texts []string, low, high []int64) api.Shown {
 	t.Helper()
-	image := build(t, texts)
+	image := built(t, texts)
 	want, _ := tryOrders(t, texts, image, low, high, api.MaxSteps)
 	for fuel := 0; fuel <= min(want.Steps+1, api.MaxSteps); fuel++ {
 		tryOrders(t, texts, image, low, high, fuel)
@@ -66,7 +68,7 @@ func TestL2Ops(t *testing.T) {
 		for _, left := range sides {
 			for _, right := range sides {
 				texts := inMain("l=2;ls[2]=3;ls[1]=5;out low " + left + sign + right + ";out low l;")
-				shown, _ := tryOrders(t, texts, build(t, texts), nil, nil, api.MaxSteps)
+				shown, _ := tryOrders(t, texts, built(t, texts), nil, nil, api.MaxSteps)
 				ends[shown.End]++
 			}
 		}
@@ -141,6 +143,14 @@ func TestL2Locals(t *testing.T) {
 		most += "low v" + string(rune('a'+i)) + "=l+" + strconv.Itoa(i) + ";"
 	}
 	tryStats(t, api.EndDone, "l=1;"+most+"out low va+(vt*(vs-sum(vt)));out low five(va,vb,vc,vd,vt);")
+	// Much is kept while as many calls as there may be are made in one another, and one more.
+	for deep, end := range map[string]int{"28": api.EndDone, "29": api.EndDeep} {
+		text := "module main;proc f(low n,low a,low b,low c)low gives low{low d=n;low e=d;low r=c;if(n){r=a+(b-(c*(d-(e-f(n-1,n,a,d)))));}return r-(a+e);}" +
+			"pub proc main()low{out low 5+(6-f(" + deep + ",1,2,3));}"
+		if shown := tryFuels(t, []string{text}, nil, nil); shown.End != end {
+			t.Errorf("%s ends by %d", text, shown.End)
+		}
+	}
 }
 
 // L2: what is done or not, once or again.
@@ -183,14 +193,73 @@ func TestL3Modules(t *testing.T) {
 	}
 }
 
+// allPlaces hands all orders of texts to try; those behind the first ones.
+func allPlaces(first, texts []string, try func(texts []string)) {
+	if len(texts) == 0 {
+		try(first)
+	}
+	for i, text := range texts {
+		allPlaces(append(slices.Clone(first), text), slices.Delete(slices.Clone(texts), i, i+1), try)
+	}
+}
+
+// L3: as many modules as there may be, whose names for what they have are
+// alike, in all orders.
+func TestL3Six(t *testing.T) {
+	main := "module main;import e;import c;low x;pub high y;pub proc main()low{in low x;in high y;do e.f(x,y);do c.f(x+1,3);out low x;out high y;out low c.z[1];}"
+	texts := []string{main}
+	for _, one := range []string{"a", "b a", "c a b", "d c b", "e d a c"} {
+		names := strings.Fields(one)
+		text, calls := "module "+names[0]+";", ""
+		for _, other := range names[1:] {
+			text += "import " + other + ";"
+			calls += "do " + other + ".f(x-n,y);x=x+" + other + ".z[1];"
+		}
+		text += "high y;low x;pub low z[2];pub proc f(low n,high m)low{z[1]=z[1]+n;x=x+z[1];y=y*3+m;" + calls + "out low x;do g();}proc g()high{if(y){out high y;}}"
+		texts = append(texts, text)
+	}
+	want := meant(t, texts, l(2), l(5), api.MaxSteps)
+	if want.End != api.EndDone || len(want.Low) < 10 || len(want.High) < 10 {
+		t.Fatalf("%q mean %v", texts, want)
+	}
+	count := 0
+	allPlaces(nil, texts, func(texts []string) {
+		count++
+		if got, _ := done(t, built(t, texts), l(2), l(5), enough(want.Steps)); !isAlike(got, want) {
+			t.Fatalf("%q show %v; want %v", texts, got, want)
+		}
+	})
+	if count != 720 {
+		t.Errorf("%d orders were tried", count)
+	}
+}
+
+// L3: where there is trouble, there is some in any order.
+func TestL3Trouble(t *testing.T) {
+	main := "module main;import a;pub proc main()low{out low a.x;}"
+	for _, texts := range [][]string{
+		{main, "module a;pub low x;"}, {main, "module a;low x;"}, {main, "module a;pub high x;"}, {main, "module a;pub low x[1];"}, {main, "module b;pub low x;"}, {main},
+		{main, "module a;import b;pub low x;", "module b;"}, {main, "module a;import b;pub low x;", "module b;import a;"}, {main, "module a;import main;pub low x;"},
+		{main, "module a;pub low x;", "module a;pub low x;"}, {main, "module a;pub low x;", "module b;?"}, {main, "module a;pub low x;", "module b;high h;proc p()low{out low h;}"},
+		{"module main;pub proc main()low{}", "module a;pub low x;", "module b;import a;"}, {"module a;pub low x;", "module b;import a;"}, {"module main;proc main()low{}", "module a;import main;", "module b;"},
+	} {
+		_, trouble := build.Build(texts)
+		allPlaces(nil, texts, func(texts []string) {
+			if image, other := build.Build(texts); (trouble.Code == api.OK) != (other.Code == api.OK) || other.Code != api.OK && len(image.Code) > 0 {
+				t.Errorf("Build(%q) = %v, %v, and in another order there is %v", texts, image, other, trouble)
+			}
+		})
+	}
+}
+
 // L2, L3: many programs, in two orders of their texts.
 func TestL3Programs(t *testing.T) {
 	ends := map[int]int{}
 	programs(t, 12, 500, func(m *maker, texts []string) {
-		image := build(t, texts)
+		image := built(t, texts)
 		shuffled := append([]string{}, texts...)
 		m.Shuffle(len(texts), func(i, j int) { shuffled[i], shuffled[j] = shuffled[j], shuffled[i] })
-		other := build(t, shuffled)
+		other := built(t, shuffled)
 		for range 5 {
 			low, high, fuel := m.input(), m.input(), m.fuel()
 			want, _ := tryOrders(t, texts, image, low, high, fuel)
